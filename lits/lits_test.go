@@ -9,23 +9,19 @@ import (
 	"salvor/api"
 )
 
-// ordinary are literals with all that is said of them, in the order of literals.
-func ordinary() []struct {
+// facts are a literal, and all that is said of it.
+type facts struct {
 	l       Lit
 	v       int
 	negated bool
 	neg     Lit
 	index   int
 	text    string
-} {
-	return []struct {
-		l       Lit
-		v       int
-		negated bool
-		neg     Lit
-		index   int
-		text    string
-	}{
+}
+
+// ordinary are literals, in their order.
+func ordinary() []facts {
+	return []facts{
 		{1, 1, false, -1, 0, "1"},
 		{-1, 1, true, 1, 1, "-1"},
 		{2, 2, false, -2, 2, "2"},
