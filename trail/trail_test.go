@@ -466,34 +466,39 @@ func TestAssignOfWhatHasAValue(t *testing.T) {
 }
 
 func TestAsManyLevelsAsThereMayBe(t *testing.T) {
+	// With the level 0 there are lits.MaxVar levels then.
+	const last = lits.MaxVar - 1
 	for _, vars := range []int{0, 2} {
 		r, _ := newTrail(t, vars)
 		r.Assign(1, 4)
-		for level := 1; level <= lits.MaxVar; level++ {
+		for level := 1; level <= last; level++ {
 			if e := r.Push(); e != api.OK || r.Now() != level {
 				t.Fatal(vars, level, e, r.Now())
 			}
 		}
+		if e := r.Push(); e != api.ErrMany || r.Now() != last || r.Len() != vars/2 {
+			t.Fatal(vars, e, r.Now(), r.Len())
+		}
 		r.Assign(-2, 3)
 		for range 3 {
-			if e := r.Push(); e != api.ErrMany || r.Now() != lits.MaxVar || r.Len() != vars {
+			if e := r.Push(); e != api.ErrMany || r.Now() != last || r.Len() != vars {
 				t.Fatal(vars, e, r.Now(), r.Len())
 			}
 		}
-		if level, set := r.Level(2); vars == 2 && (level != lits.MaxVar || !set) {
+		if level, set := r.Level(2); vars == 2 && (level != last || !set) {
 			t.Error(level, set)
 		}
-		start, e := r.Start(lits.MaxVar)
-		none, f := r.Start(lits.MaxVar + 1)
-		if start != vars/2 || e != api.OK || none != 0 || f != ErrLevel {
+		start, e := r.Start(last)
+		none, f := r.Start(last + 1)
+		if start != vars/2 || e != api.OK || none != 0 || f != ErrLevel || r.Back(last+1) != ErrLevel {
 			t.Error(vars, start, e, none, f)
 		}
 		// Each level that is gone makes room for another one.
-		if e := r.Back(lits.MaxVar - 1); e != api.OK || r.Now() != lits.MaxVar-1 || r.Len() != vars/2 {
+		if e := r.Back(last - 1); e != api.OK || r.Now() != last-1 || r.Len() != vars/2 {
 			t.Error(vars, e, r.Now(), r.Len())
 		}
-		if e, f := r.Push(), r.Push(); e != api.OK || f != api.ErrMany {
-			t.Error(vars, e, f)
+		if e, f := r.Push(), r.Push(); e != api.OK || f != api.ErrMany || r.Now() != last {
+			t.Error(vars, e, f, r.Now())
 		}
 		if e := r.Back(0); e != api.OK || r.Now() != 0 || r.Len() != vars/2 {
 			t.Error(vars, e, r.Now(), r.Len())
